@@ -3,6 +3,7 @@ package encoding
 import (
 	"math"
 	"math/rand"
+	"runtime/debug"
 	"strings"
 	"testing"
 
@@ -100,9 +101,10 @@ func TestEncodeDeep(t *testing.T) {
 	refused(t, "33 lists around a long text", nestedLists(33, long), api.ErrDeep)
 }
 
-// P1 and P8.1: items that are nested more deeply than a stack allows.
+// P1 and P8.1: items that are nested more deeply than a stack allows, which is made smaller here so that fewer levels suffice.
 func TestVeryDeep(t *testing.T) {
-	const levels = 5000000
+	const levels = 1000000
+	defer debug.SetMaxStack(debug.SetMaxStack(1 << 26))
 	deep := nestedLists(levels, Nat("\x05"))
 	refused(t, "very many lists", deep, api.ErrDeep)
 	refused(t, "a bad number in very many lists", nestedLists(levels, Nat("\x00")), api.ErrForm)
